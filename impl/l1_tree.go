@@ -189,6 +189,31 @@ func leafPlace(t string, leaf int) int {
 	return -1
 }
 
+// exposedIn returns the numbers of the left leaves of all exposed carets of a text that is known to be a tree, of any size.
+func exposedIn(t string) []int {
+	var exposed []int
+	leaf := 0
+	for i := range len(t) {
+		if strings.HasPrefix(t[i:], exposedText) {
+			exposed = append(exposed, leaf)
+		}
+		if t[i] == leafText[0] {
+			leaf++
+		}
+	}
+	return exposed
+}
+
+// withoutExposed returns a tree of any size without the exposed caret whose left leaf is given, if there is one.
+func withoutExposed(t string, leaf int) (string, bool) {
+	// The left leaf of an exposed caret is one byte behind the start of the caret.
+	start := leafPlace(t, leaf) - 1
+	if start < 0 || !strings.HasPrefix(t[start:], exposedText) {
+		return "", false
+	}
+	return t[:start] + leafText + t[start+len(exposedText):], true
+}
+
 // comb returns a comb with n carets, in which under puts the tree made so far under one more caret.
 func comb(n int, under func(t string) string) (string, bool) {
 	if n < 0 || n > MaxCarets {
@@ -367,17 +392,7 @@ func ExposedOf(t string) ([]int, bool) {
 	if !IsTree(t) {
 		return nil, false
 	}
-	var exposed []int
-	leaf := 0
-	for i := range len(t) {
-		if strings.HasPrefix(t[i:], exposedText) {
-			exposed = append(exposed, leaf)
-		}
-		if t[i] == leafText[0] {
-			leaf++
-		}
-	}
-	return exposed, true
+	return exposedIn(t), true
 }
 
 // DropExposed returns the tree with a leaf in place of the exposed caret whose left leaf is given. It fails for others.
@@ -385,12 +400,7 @@ func DropExposed(t string, leaf int) (string, bool) {
 	if !IsTree(t) {
 		return "", false
 	}
-	// The left leaf of an exposed caret is one byte behind the start of the caret.
-	start := leafPlace(t, leaf) - 1
-	if start < 0 || !strings.HasPrefix(t[start:], exposedText) {
-		return "", false
-	}
-	return t[:start] + leafText + t[start+len(exposedText):], true
+	return withoutExposed(t, leaf)
 }
 
 // RightComb returns the tree with n carets, n in 0..MaxCarets, each one but the first the right side of another one.
